@@ -1,5 +1,4 @@
-// Package language has only a test: that the program keeps to the language that it may use.
-package language
+package exact
 
 import (
 	"go/ast"
@@ -11,6 +10,7 @@ import (
 	"testing"
 )
 
+// allowed are the packages of the library that the program may use.
 const allowed = " bytes cmp container/heap errors iter maps math math/bits slices sort strconv strings sync sync/atomic unicode unicode/utf8 "
 
 // packages are the packages of the program.
