@@ -65,16 +65,16 @@ func Outside(l api.Stress, from, to int64) int64 {
 	return greatest(from, to, excess, l.Out, l.In)
 }
 
-// demand is what is needed of a section over all loads, and its length.
+// demand is what is needed of a section over all loads.
 type demand struct {
-	burst, collapse, long int64
+	burst, collapse int64
 }
 
 // demands returns what is needed of each section of a valid job.
 func demands(j api.Job) []demand {
 	var all []demand
 	for from, to := range sections(j) {
-		d := demand{long: to - from}
+		var d demand
 		for _, l := range j.Loads {
 			d.burst = max(d.burst, Needed(Inside(l, from, to), j.Factor))
 			d.collapse = max(d.collapse, Needed(Outside(l, from, to), j.Factor))
