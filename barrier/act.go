@@ -4,6 +4,7 @@ import (
 	"slices"
 
 	"moonpool/api"
+	"moonpool/exact"
 )
 
 // act changes a site by an entry, or returns why it must not.
@@ -48,7 +49,7 @@ func install(s *api.Site, e api.Entry) api.Errno {
 }
 
 func test(s *api.Site, e api.Entry) api.Errno {
-	if !isElement(s, e.At) || !within(e.N, 1, api.MaxPress) || !within(int64(e.To), 1, api.MaxValid) {
+	if !isElement(s, e.At) || !exact.Within(e.N, 1, api.MaxPress) || !exact.Within(int64(e.To), 1, api.MaxValid) {
 		return api.ErrRange
 	}
 	if !isThere(s.House.Elements[e.At]) {
@@ -87,7 +88,7 @@ func press(s *api.Site, e api.Entry) api.Errno {
 	if e.Who != s.Holder {
 		return api.ErrState
 	}
-	if !within(e.N, 0, api.MaxPress) {
+	if !exact.Within(e.N, 0, api.MaxPress) {
 		return api.ErrRange
 	}
 	if isBare(s, e.Tick, e.N) {
@@ -120,7 +121,7 @@ func permit(s *api.Site, e api.Entry) api.Errno {
 	if e.Who != s.Holder {
 		return api.ErrState
 	}
-	if e.At < 0 || e.At >= api.MaxOps || !isCrew(*s, e.To) || !within(e.N, e.Tick, maxUntil) {
+	if e.At < 0 || e.At >= api.MaxOps || !isCrew(*s, e.To) || !exact.Within(e.N, e.Tick, maxUntil) {
 		return api.ErrRange
 	}
 	p := api.Permit{Op: e.At, Who: e.To, Until: e.N}

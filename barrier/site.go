@@ -5,12 +5,13 @@ import (
 	"slices"
 
 	"moonpool/api"
+	"moonpool/exact"
 )
 
 // Check returns the first error of a site.
 func Check(s api.Site) api.Errno {
-	if !within(s.Tick, 0, api.MaxTick) || s.Crew < 1 || s.Crew > api.MaxCrew || !isCrew(s, s.Holder) ||
-		s.Offer < -1 || s.Offer >= s.Crew || s.Offer == s.Holder || !within(s.Press, 0, api.MaxPress) {
+	if !exact.Within(s.Tick, 0, api.MaxTick) || s.Crew < 1 || s.Crew > api.MaxCrew || !isCrew(s, s.Holder) ||
+		s.Offer < -1 || s.Offer >= s.Crew || s.Offer == s.Holder || !exact.Within(s.Press, 0, api.MaxPress) {
 		return api.ErrRange
 	}
 	if e := CheckHouse(s.House); e != api.OK {
@@ -25,7 +26,7 @@ func Check(s api.Site) api.Errno {
 		}
 		return api.OK
 	}
-	if !within(s.Broken, 0, s.Tick) {
+	if !exact.Within(s.Broken, 0, s.Tick) {
 		return api.ErrState
 	}
 	return api.OK
@@ -47,7 +48,7 @@ func checkPermits(s api.Site) api.Errno {
 		before = p.Op
 	}
 	for _, p := range s.Permits {
-		if !isCrew(s, p.Who) || !within(p.Until, 0, maxUntil) {
+		if !isCrew(s, p.Who) || !exact.Within(p.Until, 0, maxUntil) {
 			return api.ErrRange
 		}
 	}
@@ -69,7 +70,7 @@ func Do(s api.Site, e api.Entry) (api.Site, api.Errno) {
 	if err := Check(s); err != api.OK {
 		return api.Site{}, err
 	}
-	if !within(e.Tick, 0, api.MaxTick) {
+	if !exact.Within(e.Tick, 0, api.MaxTick) {
 		return api.Site{}, api.ErrRange
 	}
 	if e.Tick < s.Tick {

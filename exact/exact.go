@@ -1,7 +1,10 @@
-// Package exact is the arithmetic of whole numbers that the layers share: divisions and roots that are rounded as they are told.
+// Package exact is the arithmetic of whole numbers that the layers share: ranges, and divisions and roots that are rounded as they are told.
 package exact
 
 import "math/bits"
+
+// Within reports whether n is from least to most.
+func Within(n, least, most int64) bool { return least <= n && n <= most }
 
 // Down returns a / b rounded down, for b above 0.
 func Down(a, b int64) int64 {

@@ -4,6 +4,7 @@ import (
 	"moonpool/api"
 	"moonpool/casing"
 	"moonpool/earth"
+	"moonpool/exact"
 	"moonpool/fluid"
 	"moonpool/kick"
 	"moonpool/kill"
@@ -43,7 +44,7 @@ func judge(p api.Plan, phase int) api.Verdict {
 
 func (t trial) static() api.Verdict {
 	for i, z := range t.stations {
-		if !within(static(t.Phase, z), t.windows[i].Lo, t.windows[i].Hi) {
+		if !exact.Within(static(t.Phase, z), t.windows[i].Lo, t.windows[i].Hi) {
 			return api.Verdict{Why: api.PlanStatic, At: z}
 		}
 	}

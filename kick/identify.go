@@ -18,7 +18,7 @@ func isRange(r api.Range, least, most int64) bool {
 
 // checkShut returns the first error of what is read from a well that is shut in.
 func checkShut(x api.Shut) api.Errno {
-	if !within(x.Area, 1, 5000) || !within(x.Weight, 1, api.MaxWeight) || !within(x.Depth, 1, api.MaxDepth) ||
+	if !exact.Within(x.Area, 1, 5000) || !exact.Within(x.Weight, 1, api.MaxWeight) || !exact.Within(x.Depth, 1, api.MaxDepth) ||
 		!isRange(x.Pipe, 0, api.MaxPress) || !isRange(x.Casing, 0, api.MaxPress) || !isRange(x.Gain, x.Area, 1<<30) {
 		return api.ErrRange
 	}

@@ -4,6 +4,7 @@ import (
 	"slices"
 
 	"moonpool/api"
+	"moonpool/exact"
 )
 
 // checkSamples returns the first error of the samples of so many sensors.
@@ -17,7 +18,7 @@ func checkSamples(sensors int, samples []api.Sample) api.Errno {
 		}
 	}
 	for _, x := range samples {
-		if !within(x.Tick, 0, api.MaxTick-api.MaxDelay) || !within(x.Value, -1<<50, 1<<50) {
+		if !exact.Within(x.Tick, 0, api.MaxTick-api.MaxDelay) || !exact.Within(x.Value, -1<<50, 1<<50) {
 			return api.ErrRange
 		}
 	}
@@ -81,16 +82,16 @@ func Watch(l []api.Sensor, samples []api.Sample) (api.Alarm, bool, api.Errno) {
 
 // canBe reports whether a sample may be among the possible ones of a kick, but for the others.
 func canBe(s api.Sensor, k api.Kick, begin int64, x api.Sample) bool {
-	if !within(x.Tick, 0, 40000) || x.Tick > begin+maxTicks {
+	if !exact.Within(x.Tick, 0, 40000) || x.Tick > begin+maxTicks {
 		return false
 	}
 	says, most := channel(s, k)(x.Tick-begin), s.Noise*s.Step
-	return within(x.Value, says-most, says+most) && (x.Value-says)%s.Step == 0
+	return exact.Within(x.Value, says-most, says+most) && (x.Value-says)%s.Step == 0
 }
 
 // Possible reports whether samples are possible for a sensor, and a kick that began at a tick.
 func Possible(s api.Sensor, k api.Kick, begin int64, samples []api.Sample) bool {
-	if CheckSensor(s) != api.OK || CheckKick(k) != api.OK || !within(begin, 0, 20000) || len(samples) > api.MaxSamples {
+	if CheckSensor(s) != api.OK || CheckKick(k) != api.OK || !exact.Within(begin, 0, 20000) || len(samples) > api.MaxSamples {
 		return false
 	}
 	number := int64(-1) // of the sample before
@@ -98,7 +99,7 @@ func Possible(s api.Sensor, k api.Kick, begin int64, samples []api.Sample) bool 
 		if x.Sensor != samples[0].Sensor || !canBe(s, k, begin, x) || x.Tick%s.Period != samples[0].Tick%s.Period {
 			return false
 		}
-		if !within(x.Tick/s.Period-number, 1, s.Lost+1) {
+		if !exact.Within(x.Tick/s.Period-number, 1, s.Lost+1) {
 			return false
 		}
 		number = x.Tick / s.Period

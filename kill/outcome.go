@@ -1,6 +1,9 @@
 package kill
 
-import "moonpool/api"
+import (
+	"moonpool/api"
+	"moonpool/exact"
+)
 
 // look returns what is wrong at a step with an error of the choke: the zero outcome, if nothing is.
 func (c control) look(step, err int) api.Outcome {
@@ -130,7 +133,7 @@ func Tolerance(w api.Well, p api.Program, pore, step int64, most int) (int, api.
 	if e := check(w, p, api.Bubble{Volume: 1, Pore: 1}); e != api.OK {
 		return 0, e
 	}
-	if CheckKick(api.Bubble{Volume: 1, Pore: pore}) != api.OK || !within(step, 1, 1<<16) || most < 0 || most > 64 {
+	if CheckKick(api.Bubble{Volume: 1, Pore: pore}) != api.OK || !exact.Within(step, 1, 1<<16) || most < 0 || most > 64 {
 		return 0, api.ErrRange
 	}
 	for n := range most {

@@ -17,7 +17,7 @@ func CheckTable(l []api.Row) api.Errno {
 		return api.ErrFull
 	}
 	for i, r := range l {
-		if !within(r.Turn.D, 1, 1000) || !within(r.Turn.N, 0, r.Turn.D) || !within(r.Turns, 1, api.MaxTurns) {
+		if !exact.Within(r.Turn.D, 1, 1000) || !exact.Within(r.Turn.N, 0, r.Turn.D) || !exact.Within(r.Turns, 1, api.MaxTurns) {
 			return api.ErrRange
 		}
 		if i > 0 && (!less(l[i-1].Turn, r.Turn) || l[i-1].Turns <= r.Turns) {
@@ -48,7 +48,7 @@ func Turn(s api.String, p api.Path, l []api.Row, n int64) (api.String, api.Errno
 	if e := CheckTable(l); e != api.OK {
 		return api.String{}, e
 	}
-	if !within(n, 0, 1<<20) {
+	if !exact.Within(n, 0, 1<<20) {
 		return api.String{}, api.ErrRange
 	}
 	used := slices.Clone(s.Tubes)

@@ -13,7 +13,7 @@ func CheckCase(s api.String, c api.Case) api.Errno {
 	if c.Mode != api.ModeUp && c.Mode != api.ModeDown && c.Mode != api.ModeSpin {
 		return api.ErrKind
 	}
-	if !within(c.Mud, 0, api.MaxWeight) || c.Mu.Lo < 0 || c.Mu.Lo > c.Mu.Hi || c.Mu.Hi > api.MaxMu || !within(c.Bit, 0, 1<<40) {
+	if !exact.Within(c.Mud, 0, api.MaxWeight) || c.Mu.Lo < 0 || c.Mu.Lo > c.Mu.Hi || c.Mu.Hi > api.MaxMu || !exact.Within(c.Bit, 0, 1<<40) {
 		return api.ErrRange
 	}
 	for _, t := range s.Tubes {

@@ -63,7 +63,7 @@ func Pieces(s api.String, p api.Path) []api.Piece {
 // Side returns the side of a vector, rounded down and up.
 func Side(v api.Vec) api.Range {
 	const most = 1 << 24
-	if !within(v.X, -most, most) || !within(v.Y, -most, most) || !within(v.Z, -most, most) {
+	if !exact.Within(v.X, -most, most) || !exact.Within(v.Y, -most, most) || !exact.Within(v.Z, -most, most) {
 		return api.Range{}
 	}
 	return root(v.X*v.X+v.Y*v.Y, false)
