@@ -53,3 +53,30 @@ func TestP10_1TheGreatestNumbers(t *testing.T) {
 		}
 	}
 }
+
+func TestP10_2WeightsAtBorders(t *testing.T) {
+	for i, c := range []struct {
+		change func(*api.Plan, *api.Phase)
+		want   api.Range
+	}{
+		// All of the phase is light fluid, so that any weight will do.
+		{func(p *api.Plan, x *api.Phase) { x.Sea, x.Light = 100000, 13000 }, span(0, 40000)},
+		// At the shoe one centimetre alone is heavy, and the rest leaves 10,000 of the window to it.
+		{func(p *api.Plan, x *api.Phase) { x.Sea, x.Light, x.Top = 19999, 15000, 240005000 }, span(8251, 10000)},
+		// There is just one weight.
+		{func(p *api.Plan, x *api.Phase) { p.Earth.FracLo = p.Earth.PoreHi }, span(12000, 12000)},
+	} {
+		p := plan()
+		c.change(&p, &p.Phases[0])
+		if w := house.Weights(p, 0); w != c.want {
+			t.Error(i, w)
+		}
+	}
+}
+
+func TestP10_2TheGreatestKick(t *testing.T) {
+	p := with(func(x *api.Phase) { x.Kicks.Grow.Hi = 200 })
+	if v := house.Judge(p, 0); v != (api.Verdict{Why: api.PlanLate, At: 1000*58 + 200*58*57/2}) {
+		t.Error(v)
+	}
+}
