@@ -14,19 +14,38 @@ func CheckSources(p api.Path, l []api.Source) api.Errno {
 	if len(l) > api.MaxSource {
 		return api.ErrFull
 	}
+	// The order of the IDs is named before the vectors, and is about the whole list.
+	if !ascending(l) {
+		return api.ErrOrder
+	}
+	for _, s := range l {
+		if e := checkVectors(s, len(p.Legs)); e != api.OK {
+			return e
+		}
+	}
+	return api.OK
+}
+
+// ascending reports whether the IDs of sources are strictly ascending, from 1 to 99.
+func ascending(l []api.Source) bool {
 	before := 0
 	for _, s := range l {
 		if s.ID <= before || s.ID > 99 {
-			return api.ErrOrder
+			return false
 		}
 		before = s.ID
-		if len(s.Per) != len(p.Legs) {
-			return api.ErrForm
-		}
-		for _, d := range s.Per {
-			if !vec(d).within(-api.MaxShift, api.MaxShift) {
-				return api.ErrRange
-			}
+	}
+	return true
+}
+
+// checkVectors returns the error of the vectors of one source, for a path with so many legs.
+func checkVectors(s api.Source, legs int) api.Errno {
+	if len(s.Per) != legs {
+		return api.ErrForm
+	}
+	for _, d := range s.Per {
+		if !vec(d).within(-api.MaxShift, api.MaxShift) {
+			return api.ErrRange
 		}
 	}
 	return api.OK

@@ -201,7 +201,15 @@ func TestP1_3Sources(t *testing.T) {
 		{[]api.Source{source(1, 1, at(0, 0, 0))}, api.ErrForm},
 		{[]api.Source{source(1, 2, at(0, 0, 201))}, api.ErrRange},
 		{[]api.Source{source(1, 2, at(-1<<63, 0, 0))}, api.ErrRange},
-		{[]api.Source{source(1, 2, at(0, 0, 201)), source(1, 1, at(0, 0, 0))}, api.ErrRange},
+		// What the vectors lack is found source by source, but only after the order of all IDs.
+		{[]api.Source{source(1, 2, at(0, 0, 201)), source(2, 1, at(0, 0, 0))}, api.ErrRange},
+		{[]api.Source{source(1, 1, at(0, 0, 0)), source(2, 2, at(0, 0, 201))}, api.ErrForm},
+		{[]api.Source{source(1, 1, at(0, 0, 201))}, api.ErrForm},
+		{[]api.Source{source(1, 2, at(0, 0, 201)), source(1, 1, at(0, 0, 0))}, api.ErrOrder},
+		{[]api.Source{source(1, 1, at(0, 0, 0)), source(1, 2, at(0, 0, 0))}, api.ErrOrder},
+		{[]api.Source{source(1, 2, at(0, 0, 201)), source(0, 2, at(0, 0, 0))}, api.ErrOrder},
+		{[]api.Source{source(1, 3, at(0, 0, 0)), source(2, 2, at(201, 0, 0)), source(100, 2, at(0, 0, 0))}, api.ErrOrder},
+		{slices.Repeat([]api.Source{source(0, 1, at(0, 0, 201))}, 5), api.ErrFull},
 	} {
 		if e := path.CheckSources(p, c.l); e != c.want {
 			t.Error(i, e, c.want)
@@ -233,6 +241,13 @@ func TestP1_3Where(t *testing.T) {
 		t.Error(e)
 	}
 	if _, e := path.Where(p, []api.Source{{}}, 3); e != api.ErrOrder {
+		t.Error(e)
+	}
+	twice := []api.Source{source(1, 1, at(0, 0, 0)), source(1, 2, at(0, 0, 0))}
+	if _, e := path.Where(p, twice, 3); e != api.ErrOrder {
+		t.Error(e)
+	}
+	if _, e := path.Actual(p, twice, nil, 3); e != api.ErrOrder {
 		t.Error(e)
 	}
 	for i, c := range []struct {
@@ -325,11 +340,16 @@ func TestP1_5KnownAndGap(t *testing.T) {
 	if g, e := path.Gap(a, nil, a, nil); g != 0 || e != api.OK {
 		t.Error(g, e)
 	}
+	// The first source has vectors for no path here, but the order of the IDs is named before them.
+	twice := []api.Source{source(1, 9, at(0, 0, 201)), source(1, 9, at(0, 0, 0))}
 	for i, c := range []struct {
 		la, lb []api.Source
 		r      int64
 		want   api.Errno
-	}{{nil, nil, 0, api.ErrRange}, {[]api.Source{{}}, make([]api.Source, 5), 0, api.ErrOrder}, {nil, make([]api.Source, 5), 0, api.ErrFull}} {
+	}{
+		{nil, nil, 0, api.ErrRange}, {[]api.Source{{}}, make([]api.Source, 5), 0, api.ErrOrder}, {nil, make([]api.Source, 5), 0, api.ErrFull},
+		{twice, nil, 1, api.ErrOrder}, {nil, twice, 1, api.ErrOrder}, {twice[:1], twice, 1, api.ErrForm},
+	} {
 		if _, e := path.Known(a, c.la, b, c.lb, c.r); e != c.want {
 			t.Error(i, e)
 		}
